@@ -189,7 +189,7 @@ func modelBody(body []api.Stmt, expr func([]api.Term) string) string {
 		if forms[s.Kind] == "" {
 			continue
 		}
-		deep := 0
+		deep := 1
 		for _, x := range body[:i] {
 			switch x.Kind {
 			case api.SIf, api.SWhile:
@@ -201,7 +201,7 @@ func modelBody(body []api.Stmt, expr func([]api.Term) string) string {
 		if s.Kind == api.SElse || s.Kind == api.SEnd {
 			deep--
 		}
-		all += "  " + strings.Repeat("  ", max(deep, 0)) + modelStmt(s, expr) + "\n"
+		all += strings.Repeat("  ", max(deep, 0)) + modelStmt(s, expr) + "\n"
 	}
 	return all
 }

@@ -110,7 +110,7 @@ func (w *writer) function(f api.FuncDecl) {
 }
 
 func (w *writer) body(body []api.Stmt) {
-	deep := 1
+	deep := 1 // the function's own block, which one SEnd too many ends
 	lines(w, func(s api.Stmt) {
 		switch s.Kind {
 		case api.SIf, api.SWhile:

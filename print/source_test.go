@@ -262,8 +262,8 @@ func TestLengthOfStatementsThatLackSomething(t *testing.T) { // P6.1
 		{"  return , , 1;\n", []api.Stmt{{Kind: api.SReturn, Exprs: slices.Concat(none, none, one)}}},
 		{"  return ;\n", []api.Stmt{{Kind: api.SReturn, Exprs: [][]api.Term{nil}}}},
 		{"", []api.Stmt{{}, {Kind: -1, Name: "x"}, {Kind: 10, Exprs: one}, {Kind: 1 << 40, Targets: []string{"x"}}}},
-		{"  } else {\n  }\n  }\n  } else {\n  }\n", []api.Stmt{{Kind: api.SElse}, end, end, {Kind: api.SElse}, end}},
-		{"  }\n  }\n  if  {\n  while  {\n  if  {\n    ();\n  } else {\n  }\n", []api.Stmt{end, end, branch, {Kind: api.SWhile}, {}, branch, {Kind: api.SCall}, {Kind: api.SElse}, end}},
+		{"} else {\n}\n}\n} else {\n}\n", []api.Stmt{{Kind: api.SElse}, end, end, {Kind: api.SElse}, end}},
+		{"}\n}\nif  {\nwhile  {\n  if  {\n    ();\n  } else {\n  }\n", []api.Stmt{end, end, branch, {Kind: api.SWhile}, {}, branch, {Kind: api.SCall}, {Kind: api.SElse}, end}},
 		{"  if  {\n    if  {\n      return;\n", []api.Stmt{branch, branch, ret()}},
 	} {
 		s := withBody(c.body...)
@@ -271,6 +271,55 @@ func TestLengthOfStatementsThatLackSomething(t *testing.T) { // P6.1
 		if got := lengthOf(s); got != head+len(c.want) {
 			t.Errorf("%d bytes, want %d of %q", got-head, len(c.want), c.want)
 		}
+	}
+}
+
+// A body that ends more blocks than it begins has ended the function's own: its lines have nothing ahead then.
+func TestLengthOfBlocksThatDoNotNest(t *testing.T) { // P6.1
+	end, other, call := api.Stmt{Kind: api.SEnd}, api.Stmt{Kind: api.SElse}, api.Stmt{Kind: api.SCall}
+	branch, loop := api.Stmt{Kind: api.SIf}, api.Stmt{Kind: api.SWhile}
+	for _, c := range []struct {
+		want string
+		body []api.Stmt
+	}{
+		{"}\n", []api.Stmt{end}},
+		{"}\n();\n", []api.Stmt{end, call}},
+		{"}\n}\n}\n();\n", []api.Stmt{end, end, end, call}},
+		{"  ();\n} else {\n  ();\n", []api.Stmt{call, other, call}},
+		{"}\n} else {\n();\n", []api.Stmt{end, other, call}},
+		{"}\nif  {\n  ();\n} else {\n  ();\n}\n();\n", []api.Stmt{end, branch, call, other, call, end, call}},
+		{"}\n}\nwhile  {\n();\nwhile  {\n  ();\n}\n}\n();\n", []api.Stmt{end, end, loop, call, loop, call, end, end, call}},
+		{"  if  {\n    ();\n  }\n}\n();\n", []api.Stmt{branch, call, end, end, call}},
+		{"  if  {\n  } else {\n    ();\n  } else {\n    ();\n", []api.Stmt{branch, other, call, other, call}},
+		{"  while  {\n    if  {\n      ();\n", []api.Stmt{loop, branch, call}},
+	} {
+		s := withBody(c.body...)
+		wantErr(t, s, api.ErrArg)
+		const head = len("func f {} () () {\n}\n")
+		if got := lengthOf(s); got != head+len(c.want) {
+			t.Errorf("%d bytes, want %d of %q", got-head, len(c.want), c.want)
+		}
+	}
+}
+
+func TestLongTextsOfBlocksThatDoNotNest(t *testing.T) { // P6.1
+	end, other, branch := api.Stmt{Kind: api.SEnd}, api.Stmt{Kind: api.SElse}, api.Stmt{Kind: api.SIf}
+	for _, c := range []struct {
+		body []api.Stmt
+		line api.Stmt
+		fit  int // how many of the line there may be: its bytes that many times are at most 65516 less those of the body
+	}{
+		{[]api.Stmt{end}, ret(), 8189},
+		{slices.Repeat([]api.Stmt{end}, 5), ret(), 8188},
+		{[]api.Stmt{end, end, branch}, ret(), 8188},
+		{[]api.Stmt{end}, end, 32757},
+		{nil, other, 7279},
+		{[]api.Stmt{end, branch}, other, 7278},
+		{[]api.Stmt{branch}, ret(), 5459},
+	} {
+		body := append(slices.Clone(c.body), slices.Repeat([]api.Stmt{c.line}, c.fit)...)
+		wantErr(t, withBody(body...), api.ErrArg)
+		wantErr(t, withBody(append(body, c.line)...), api.ErrLong)
 	}
 }
 

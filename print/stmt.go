@@ -6,12 +6,12 @@ import (
 	"louver/api"
 )
 
-// stmt writes a statement's line so deep, but never out of the function's own block.
+// stmt writes a statement's line so deep: less than 0 is counted where more blocks end than begin, but no line stands so.
 func (w *writer) stmt(deep int, s api.Stmt) {
 	if s.Kind < api.SAssign || s.Kind > api.SReturn {
 		return
 	}
-	w.word(strings.Repeat(deeper, max(deep, 1)))
+	w.word(strings.Repeat(deeper, max(deep, 0)))
 	switch s.Kind {
 	case api.SAssign:
 		w.targets(s)
