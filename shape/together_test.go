@@ -6,6 +6,7 @@ import (
 	"testing"
 
 	"louver/api"
+	"louver/graph"
 	"louver/shape"
 )
 
@@ -38,6 +39,9 @@ func TestEdgesLeadSomewhere(t *testing.T) { // P13.4
 			}
 			for a := range g.Code {
 				seen[g.Code[a].Op]++
+				if len(graph.Next(g, a)) == 0 {
+					t.Fatalf("address %d of function %d has no edge: %s", a, f, told(m))
+				}
 				for _, to := range edges(g.Code, a) {
 					if to < 0 || to >= int64(len(g.Code)) {
 						t.Fatalf("address %d of function %d leads to %d: %s", a, f, to, told(m))
